@@ -1,0 +1,289 @@
+package expr
+
+import "ceiling/api"
+
+// expression: relation { operator relation }
+func expression(r *reader) { r.plan(relation, moreRelations) }
+
+// moreRelations reads the rest of an expression that begins with a relation. The first operator decides which one the others are.
+func moreRelations(r *reader) {
+	if o, _ := r.operator(); dyadicLevel(o) == 0 {
+		r.plan(chain(o))
+	}
+}
+
+// chain reads { operator relation } for one operator.
+func chain(o api.Operator) step {
+	var more step
+	more = func(r *reader) {
+		if next, _ := r.operator(); next == o {
+			r.operand(relation, more)
+		}
+	}
+	return more
+}
+
+// operand reads the operator that is next, and plans its second operand and what comes behind both.
+func (r *reader) operand(form, behind step) {
+	o, n := r.operator()
+	r.at += n
+	left := r.expr
+	r.plan(form, func(r *reader) {
+		r.expr = of(api.ExDyadic, left, r.expr)
+		r.expr.Oper = o
+	}, behind)
+}
+
+// relation: simple [ one of = /= < <= > >=, simple ], or simple [ in or not in, simple [ .. simple ] ]
+func relation(r *reader) { r.plan(simple, moreSimple) }
+
+// moreSimple reads the rest of a relation that begins with a simple.
+func moreSimple(r *reader) {
+	o, _ := r.operator()
+	switch {
+	case dyadicLevel(o) == 1:
+		r.operand(simple, nothing)
+	case r.takes("in"):
+		r.plan(simple, member(api.ExIn, r.expr))
+	case r.sees(0, "not") && r.sees(1, "in"):
+		r.at += 2
+		r.plan(simple, member(api.ExNotIn, r.expr))
+	}
+}
+
+func nothing(*reader) {}
+
+// member reads the rest of a test of membership whose second simple has been read.
+func member(kind api.ExprKind, left api.Expr) step {
+	return func(r *reader) {
+		first := r.expr
+		if r.takes("..") {
+			r.plan(simple, func(r *reader) { r.expr = of(kind, left, first, r.expr) })
+			return
+		}
+		if !Named(first) {
+			r.miss()
+		}
+		r.expr = of(kind, left, first)
+	}
+}
+
+// simple: [ + or - ] term { + or - , term }
+func simple(r *reader) { r.plan(prefixed(2, term), moreTerms) }
+
+func moreTerms(r *reader) {
+	if o, _ := r.operator(); dyadicLevel(o) == 2 {
+		r.operand(term, moreTerms)
+	}
+}
+
+// term: factor { one of * / mod rem, factor }
+func term(r *reader) { r.plan(factor, moreFactors) }
+
+func moreFactors(r *reader) {
+	if o, _ := r.operator(); dyadicLevel(o) == 3 {
+		r.operand(factor, moreFactors)
+	}
+}
+
+// factor: [ abs or not ] primary
+func factor(r *reader) { r.plan(prefixed(4, primary)) }
+
+// prefixed reads a form, perhaps behind an operator with one operand, of a level.
+func prefixed(level int, form step) step {
+	return func(r *reader) {
+		o, line := r.found(r.monadic), r.ahead(0).Line
+		if monadicLevel(o) != level {
+			r.plan(form)
+			return
+		}
+		r.at++
+		r.plan(form, func(r *reader) {
+			r.expr = api.Expr{Kind: api.ExMonadic, Oper: o, L: []api.Expr{r.expr}, Line: line}
+		})
+	}
+}
+
+// primary: an integer; null; a name; or a parenthesis
+func primary(r *reader) {
+	t := r.ahead(0)
+	switch {
+	case t.Kind == api.TokInt:
+		r.at++
+		r.expr = api.Expr{Kind: api.ExInt, N: t.N, Line: t.Line}
+	case r.takes("null"):
+		r.expr = api.Expr{Kind: api.ExNull, Line: t.Line}
+	case t.Kind == api.TokName:
+		r.plan(name)
+	default:
+		r.plan(parenthesis)
+	}
+}
+
+// name: a TokName { a suffix }
+func name(r *reader) {
+	t := r.word()
+	r.expr = api.Expr{Kind: api.ExName, S: t.Text, Line: t.Line}
+	r.plan(suffixes)
+}
+
+// suffixes reads the suffixes of the name that has been read.
+func suffixes(r *reader) {
+	before := r.expr
+	switch {
+	case r.takes("."):
+		r.selected()
+		r.plan(suffixes)
+	case r.takes("("):
+		r.plan(list(argument, nil), func(r *reader) {
+			r.must(")")
+			r.expr = of(api.ExCall, before)
+			r.expr.A = r.assocs
+		}, suffixes)
+	case r.takes("'"):
+		if r.ahead(0).Kind == api.TokName {
+			r.expr = of(api.ExAttr, before)
+			r.expr.S = r.word().Text
+			r.plan(suffixes)
+			return
+		}
+		r.plan(parenthesis, func(r *reader) { r.expr = of(api.ExQual, before, r.expr) }, suffixes)
+	}
+}
+
+// selected reads what stands behind the `.` of a suffix.
+func (r *reader) selected() {
+	if r.takes("all") {
+		r.expr = of(api.ExDeref, r.expr)
+		return
+	}
+	s := r.word().Text
+	r.expr = of(api.ExSelect, r.expr)
+	r.expr.S = s
+}
+
+// parenthesis: ( and the rest of an ExIf; or (, associations and )
+func parenthesis(r *reader) {
+	line := r.ahead(0).Line
+	r.must("(")
+	if r.takes("if") {
+		r.plan(conditional(line))
+		return
+	}
+	r.plan(list(association, nil), func(r *reader) {
+		r.must(")")
+		if single(r.assocs) {
+			r.expr = r.assocs[0].E
+		} else {
+			r.expr = api.Expr{Kind: api.ExAggr, A: r.assocs, Line: line}
+		}
+	})
+}
+
+// conditional reads expression then expression else expression ), the rest of an ExIf that began in a line.
+func conditional(line int) step {
+	return func(r *reader) {
+		var l []api.Expr
+		keep := func(end string) step {
+			return func(r *reader) {
+				l = append(l, r.expr)
+				r.must(end)
+			}
+		}
+		r.plan(expression, keep("then"), expression, keep("else"), expression, keep(")"), func(r *reader) {
+			r.expr = api.Expr{Kind: api.ExIf, L: l, Line: line}
+		})
+	}
+}
+
+// list reads an item { , an item } behind those that have been read.
+func list(item step, l []api.Assoc) step {
+	return func(r *reader) {
+		r.plan(item, func(r *reader) {
+			r.assocs = append(l, r.assoc)
+			if r.takes(",") {
+				r.plan(list(item, r.assocs))
+			}
+		})
+	}
+}
+
+// argument: a TokName, =>, an expression; or an expression
+func argument(r *reader) {
+	t := r.ahead(0)
+	r.choices = nil
+	if t.Kind == api.TokName && r.sees(1, "=>") {
+		r.at += 2
+		x := api.Expr{Kind: api.ExName, S: t.Text, Line: t.Line}
+		r.choices = []api.Choice{{Kind: api.ChExpr, L: []api.Expr{x}}}
+	}
+	r.plan(value)
+}
+
+// value reads the expression of an association whose choices have been read.
+func value(r *reader) {
+	l := r.choices
+	r.plan(expression, func(r *reader) { r.assoc = api.Assoc{Choices: l, E: r.expr} })
+}
+
+// association: others, =>, an expression; or what begins with a choice that begins with an expression
+func association(r *reader) {
+	if r.sees(0, "others") {
+		r.plan(choice, alone, arrow, value)
+	} else {
+		r.plan(choice, associated)
+	}
+}
+
+// alone takes the choice that has been read for all of the choices.
+func alone(r *reader) { r.choices = []api.Choice{r.choice} }
+
+func arrow(r *reader) { r.must("=>") }
+
+// associated reads the rest of an association that begins with a choice: { | a choice }, =>, an expression; or nothing.
+func associated(r *reader) {
+	c := r.choice
+	switch {
+	case r.takes("|"):
+		r.plan(choices([]api.Choice{c}), arrow, value)
+	case c.Kind == api.ChRange || r.sees(0, "=>"):
+		r.plan(alone, arrow, value)
+	default:
+		r.assoc = api.Assoc{E: c.L[0]}
+	}
+}
+
+// choices reads a choice { | a choice } behind those that have been read.
+func choices(l []api.Choice) step {
+	return func(r *reader) {
+		r.plan(choice, func(r *reader) {
+			r.choices = append(l, r.choice)
+			if r.takes("|") {
+				r.plan(choices(r.choices))
+			}
+		})
+	}
+}
+
+// choice: others; or a simple and the rest of a range or of an expression
+func choice(r *reader) {
+	if r.takes("others") {
+		r.choice = api.Choice{Kind: api.ChOthers}
+	} else {
+		r.plan(simple, chosen)
+	}
+}
+
+// chosen reads the rest of a choice that begins with a simple.
+func chosen(r *reader) {
+	if !r.takes("..") {
+		r.plan(moreSimple, moreRelations, func(r *reader) {
+			r.choice = api.Choice{Kind: api.ChExpr, L: []api.Expr{r.expr}}
+		})
+		return
+	}
+	lo := r.expr
+	r.plan(simple, func(r *reader) {
+		r.choice = api.Choice{Kind: api.ChRange, L: []api.Expr{lo, r.expr}}
+	})
+}
