@@ -26,7 +26,7 @@ func chain(o api.Operator) step {
 // operand reads the operator that is next, and plans its second operand and what comes behind both.
 func (r *reader) operand(form, behind step) {
 	o, n := r.operator()
-	r.at += n
+	r.At += n
 	left := r.expr
 	r.plan(form, func(r *reader) {
 		r.expr = of(api.ExDyadic, left, r.expr)
@@ -43,10 +43,10 @@ func moreSimple(r *reader) {
 	switch {
 	case dyadicLevel(o) == 1:
 		r.operand(simple, nothing)
-	case r.takes("in"):
+	case r.Takes("in"):
 		r.plan(simple, member(api.ExIn, r.expr))
-	case r.sees(0, "not") && r.sees(1, "in"):
-		r.at += 2
+	case r.Sees(0, "not") && r.Sees(1, "in"):
+		r.At += 2
 		r.plan(simple, member(api.ExNotIn, r.expr))
 	}
 }
@@ -57,7 +57,7 @@ func nothing(*reader) {}
 func member(kind api.ExprKind, left api.Expr) step {
 	return func(r *reader) {
 		first := r.expr
-		if r.takes("..") {
+		if r.Takes("..") {
 			r.plan(simple, func(r *reader) { r.expr = of(kind, left, first, r.expr) })
 			return
 		}
@@ -92,12 +92,12 @@ func factor(r *reader) { r.plan(prefixed(4, primary)) }
 // prefixed reads a form, perhaps behind an operator with one operand, of a level.
 func prefixed(level int, form step) step {
 	return func(r *reader) {
-		o, line := r.found(r.monadic), r.ahead(0).Line
+		o, line := r.found(r.monadic), r.Ahead(0).Line
 		if monadicLevel(o) != level {
 			r.plan(form)
 			return
 		}
-		r.at++
+		r.At++
 		r.plan(form, func(r *reader) {
 			r.expr = api.Expr{Kind: api.ExMonadic, Oper: o, L: []api.Expr{r.expr}, Line: line}
 		})
@@ -106,12 +106,12 @@ func prefixed(level int, form step) step {
 
 // primary: an integer; null; a name; or a parenthesis
 func primary(r *reader) {
-	t := r.ahead(0)
+	t := r.Ahead(0)
 	switch {
 	case t.Kind == api.TokInt:
-		r.at++
+		r.At++
 		r.expr = api.Expr{Kind: api.ExInt, N: t.N, Line: t.Line}
-	case r.takes("null"):
+	case r.Takes("null"):
 		r.expr = api.Expr{Kind: api.ExNull, Line: t.Line}
 	case t.Kind == api.TokName:
 		r.plan(name)
@@ -131,17 +131,17 @@ func name(r *reader) {
 func suffixes(r *reader) {
 	before := r.expr
 	switch {
-	case r.takes("."):
+	case r.Takes("."):
 		r.selected()
 		r.plan(suffixes)
-	case r.takes("("):
+	case r.Takes("("):
 		r.plan(list(argument, nil), func(r *reader) {
 			r.must(")")
 			r.expr = of(api.ExCall, before)
 			r.expr.A = r.assocs
 		}, suffixes)
-	case r.takes("'"):
-		if r.ahead(0).Kind == api.TokName {
+	case r.Takes("'"):
+		if r.Ahead(0).Kind == api.TokName {
 			r.expr = of(api.ExAttr, before)
 			r.expr.S = r.word().Text
 			r.plan(suffixes)
@@ -153,7 +153,7 @@ func suffixes(r *reader) {
 
 // selected reads what stands behind the `.` of a suffix.
 func (r *reader) selected() {
-	if r.takes("all") {
+	if r.Takes("all") {
 		r.expr = of(api.ExDeref, r.expr)
 		return
 	}
@@ -164,9 +164,9 @@ func (r *reader) selected() {
 
 // parenthesis: ( and the rest of an ExIf; or (, associations and )
 func parenthesis(r *reader) {
-	line := r.ahead(0).Line
+	line := r.Ahead(0).Line
 	r.must("(")
-	if r.takes("if") {
+	if r.Takes("if") {
 		r.plan(conditional(line))
 		return
 	}
@@ -201,7 +201,7 @@ func list(item step, l []api.Assoc) step {
 	return func(r *reader) {
 		r.plan(item, func(r *reader) {
 			r.assocs = append(l, r.assoc)
-			if r.takes(",") {
+			if r.Takes(",") {
 				r.plan(list(item, r.assocs))
 			}
 		})
@@ -210,10 +210,10 @@ func list(item step, l []api.Assoc) step {
 
 // argument: a TokName, =>, an expression; or an expression
 func argument(r *reader) {
-	t := r.ahead(0)
+	t := r.Ahead(0)
 	r.choices = nil
-	if t.Kind == api.TokName && r.sees(1, "=>") {
-		r.at += 2
+	if t.Kind == api.TokName && r.Sees(1, "=>") {
+		r.At += 2
 		x := api.Expr{Kind: api.ExName, S: t.Text, Line: t.Line}
 		r.choices = []api.Choice{{Kind: api.ChExpr, L: []api.Expr{x}}}
 	}
@@ -228,7 +228,7 @@ func value(r *reader) {
 
 // association: others, =>, an expression; or what begins with a choice that begins with an expression
 func association(r *reader) {
-	if r.sees(0, "others") {
+	if r.Sees(0, "others") {
 		r.plan(choice, alone, arrow, value)
 	} else {
 		r.plan(choice, associated)
@@ -244,9 +244,9 @@ func arrow(r *reader) { r.must("=>") }
 func associated(r *reader) {
 	c := r.choice
 	switch {
-	case r.takes("|"):
+	case r.Takes("|"):
 		r.plan(choices([]api.Choice{c}), arrow, value)
-	case c.Kind == api.ChRange || r.sees(0, "=>"):
+	case c.Kind == api.ChRange || r.Sees(0, "=>"):
 		r.plan(alone, arrow, value)
 	default:
 		r.assoc = api.Assoc{E: c.L[0]}
@@ -258,7 +258,7 @@ func choices(l []api.Choice) step {
 	return func(r *reader) {
 		r.plan(choice, func(r *reader) {
 			r.choices = append(l, r.choice)
-			if r.takes("|") {
+			if r.Takes("|") {
 				r.plan(choices(r.choices))
 			}
 		})
@@ -267,7 +267,7 @@ func choices(l []api.Choice) step {
 
 // choice: others; or a simple and the rest of a range or of an expression
 func choice(r *reader) {
-	if r.takes("others") {
+	if r.Takes("others") {
 		r.choice = api.Choice{Kind: api.ChOthers}
 	} else {
 		r.plan(simple, chosen)
@@ -276,7 +276,7 @@ func choice(r *reader) {
 
 // chosen reads the rest of a choice that begins with a simple.
 func chosen(r *reader) {
-	if !r.takes("..") {
+	if !r.Takes("..") {
 		r.plan(moreSimple, moreRelations, func(r *reader) {
 			r.choice = api.Choice{Kind: api.ChExpr, L: []api.Expr{r.expr}}
 		})

@@ -4,7 +4,7 @@ import (
 	"strings"
 
 	"ceiling/api"
-	"ceiling/lex"
+	"ceiling/token"
 )
 
 // spellings are the tokens of the operators.
@@ -19,7 +19,7 @@ var spellings = [...]string{
 func spelled(o api.Operator) []api.Token {
 	var l []api.Token
 	for _, s := range strings.Fields(spellings[o]) {
-		l = append(l, fixed(s))
+		l = append(l, token.Fixed(s))
 	}
 	return l
 }
@@ -63,12 +63,4 @@ func monadicLevel(o api.Operator) int {
 		return 4
 	}
 	return strongest
-}
-
-// fixed returns a symbol or a reserved word as a token.
-func fixed(s string) api.Token {
-	if lex.Key(s) {
-		return api.Token{Kind: api.TokKey, Text: s}
-	}
-	return api.Token{Kind: api.TokSym, Text: s}
 }

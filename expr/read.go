@@ -1,6 +1,9 @@
 package expr
 
-import "ceiling/api"
+import (
+	"ceiling/api"
+	"ceiling/token"
+)
 
 // Front returns the expression with which tokens begin, at least of a level, and how many tokens it has.
 func Front(l []api.Token, level int) (x api.Expr, n int, e api.Errno) {
@@ -44,8 +47,7 @@ func FrontChoices(l []api.Token) (x []api.Choice, n int, e api.Errno) {
 
 // A reader reads tokens from left to right. Its steps do not call each other but plan each other, since forms can be nested deeper than calls can.
 type reader struct {
-	l       []api.Token
-	at      int
+	token.Cursor
 	dyadic  map[string]api.Operator
 	monadic map[string]api.Operator
 	todo    []step // the next one last
@@ -70,7 +72,7 @@ func read(l []api.Token, form step) (r *reader, n int, e api.Errno) {
 			n, e = int(at), api.ErrExpr
 		}
 	}()
-	r = &reader{l: l, dyadic: dyadics(), monadic: monadics()}
+	r = &reader{Cursor: token.Cursor{L: l}, dyadic: dyadics(), monadic: monadics()}
 	r.plan(form)
 	for len(r.todo) > 0 {
 		last := len(r.todo) - 1
@@ -78,7 +80,7 @@ func read(l []api.Token, form step) (r *reader, n int, e api.Errno) {
 		r.todo = r.todo[:last]
 		next(r)
 	}
-	return r, r.at, api.OK
+	return r, r.At, api.OK
 }
 
 // plan puts steps in front of those that are planned.
@@ -88,53 +90,30 @@ func (r *reader) plan(steps ...step) {
 	}
 }
 
-// ahead returns the token that is i tokens behind the next one, and the zero token if it is not there.
-func (r *reader) ahead(i int) api.Token {
-	if i >= len(r.l)-r.at {
-		return api.Token{}
-	}
-	return r.l[r.at+i]
-}
-
-// sees reports whether the token that is i tokens behind the next one is this symbol or reserved word.
-func (r *reader) sees(i int, s string) bool {
-	t := r.ahead(i)
-	return t.Text == s && t.Kind == fixed(s).Kind
-}
-
-// takes reads this symbol or reserved word if it is next.
-func (r *reader) takes(s string) bool {
-	if !r.sees(0, s) {
-		return false
-	}
-	r.at++
-	return true
-}
-
 // must reads this symbol or reserved word.
 func (r *reader) must(s string) {
-	if !r.takes(s) {
+	if !r.Takes(s) {
 		r.miss()
 	}
 }
 
 // miss ends reading at the next token.
-func (r *reader) miss() { panic(missing(r.at)) }
+func (r *reader) miss() { panic(missing(r.At)) }
 
 // word reads a TokName.
 func (r *reader) word() api.Token {
-	t := r.ahead(0)
+	t := r.Ahead(0)
 	if t.Kind != api.TokName {
 		r.miss()
 	}
-	r.at++
+	r.At++
 	return t
 }
 
 // found returns the operator of a map that is next, as far as it is one token; NoOperator: there is none.
 func (r *reader) found(operators map[string]api.Operator) api.Operator {
-	s := r.ahead(0).Text
-	if o, ok := operators[s]; ok && r.sees(0, s) {
+	s := r.Ahead(0).Text
+	if o, ok := operators[s]; ok && r.Sees(0, s) {
 		return o
 	}
 	return api.NoOperator
@@ -144,9 +123,9 @@ func (r *reader) found(operators map[string]api.Operator) api.Operator {
 func (r *reader) operator() (o api.Operator, n int) {
 	o = r.found(r.dyadic)
 	switch {
-	case o == api.OperAnd && r.sees(1, "then"):
+	case o == api.OperAnd && r.Sees(1, "then"):
 		return api.OperThen, 2
-	case o == api.OperOr && r.sees(1, "else"):
+	case o == api.OperOr && r.Sees(1, "else"):
 		return api.OperElse, 2
 	}
 	return o, 1

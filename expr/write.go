@@ -1,6 +1,9 @@
 package expr
 
-import "ceiling/api"
+import (
+	"ceiling/api"
+	"ceiling/token"
+)
 
 // Tokens returns the tokens of an expression.
 func Tokens(e api.Expr) ([]api.Token, api.Errno) {
@@ -9,7 +12,7 @@ func Tokens(e api.Expr) ([]api.Token, api.Errno) {
 	}
 	var w writer
 	w.expr(e)
-	return w.l, api.OK
+	return w.L, api.OK
 }
 
 // ArgTokens returns the tokens of arguments.
@@ -19,7 +22,7 @@ func ArgTokens(l []api.Assoc) ([]api.Token, api.Errno) {
 	}
 	var w writer
 	w.assocs(l)
-	return w.l, api.OK
+	return w.L, api.OK
 }
 
 // ChoiceTokens returns the tokens of choices.
@@ -29,48 +32,37 @@ func ChoiceTokens(l []api.Choice) ([]api.Token, api.Errno) {
 	}
 	var w writer
 	w.choices(l)
-	return w.l, api.OK
+	return w.L, api.OK
 }
 
 // A writer has the tokens of valid expressions.
-type writer struct{ l []api.Token }
-
-func (w *writer) put(l ...api.Token) { w.l = append(w.l, l...) }
-
-// fixed puts symbols and reserved words.
-func (w *writer) fixed(l ...string) {
-	for _, s := range l {
-		w.put(fixed(s))
-	}
-}
-
-func (w *writer) name(s string) { w.put(api.Token{Kind: api.TokName, Text: s}) }
+type writer struct{ token.List }
 
 func (w *writer) expr(e api.Expr) {
 	switch e.Kind {
 	case api.ExInt:
-		w.put(api.Token{Kind: api.TokInt, N: e.N})
+		w.Put(api.Token{Kind: api.TokInt, N: e.N})
 	case api.ExNull:
-		w.fixed("null")
+		w.Fixed("null")
 	case api.ExAggr:
-		w.fixed("(")
+		w.Fixed("(")
 		w.assocs(e.A)
-		w.fixed(")")
+		w.Fixed(")")
 	case api.ExIf:
-		w.fixed("(", "if")
+		w.Fixed("(", "if")
 		w.expr(e.L[0])
-		w.fixed("then")
+		w.Fixed("then")
 		w.expr(e.L[1])
-		w.fixed("else")
+		w.Fixed("else")
 		w.expr(e.L[2])
-		w.fixed(")")
+		w.Fixed(")")
 	case api.ExMonadic:
-		w.put(spelled(e.Oper)...)
+		w.Put(spelled(e.Oper)...)
 		w.part(e.L[0], loosestOperand(e.Oper))
 	case api.ExDyadic:
 		left, right := loosestOperands(e)
 		w.part(e.L[0], left)
-		w.put(spelled(e.Oper)...)
+		w.Put(spelled(e.Oper)...)
 		w.part(e.L[1], right)
 	case api.ExIn:
 		w.member(e, "in")
@@ -84,25 +76,25 @@ func (w *writer) expr(e api.Expr) {
 // named puts an expression of the form of a name.
 func (w *writer) named(e api.Expr) {
 	if e.Kind == api.ExName {
-		w.name(e.S)
+		w.Name(e.S)
 		return
 	}
 	w.expr(e.L[0])
 	switch e.Kind {
 	case api.ExSelect:
-		w.fixed(".")
-		w.name(e.S)
+		w.Fixed(".")
+		w.Name(e.S)
 	case api.ExDeref:
-		w.fixed(".", "all")
+		w.Fixed(".", "all")
 	case api.ExAttr:
-		w.fixed("'")
-		w.name(e.S)
+		w.Fixed("'")
+		w.Name(e.S)
 	case api.ExCall:
-		w.fixed("(")
+		w.Fixed("(")
 		w.assocs(e.A)
-		w.fixed(")")
+		w.Fixed(")")
 	case api.ExQual:
-		w.fixed("'")
+		w.Fixed("'")
 		w.qualified(e.L[1])
 	}
 }
@@ -118,7 +110,7 @@ func (w *writer) qualified(e api.Expr) {
 
 func (w *writer) member(e api.Expr, operator ...string) {
 	w.part(e.L[0], 2)
-	w.fixed(operator...)
+	w.Fixed(operator...)
 	if len(e.L) == 2 {
 		w.expr(e.L[1])
 	} else {
@@ -128,7 +120,7 @@ func (w *writer) member(e api.Expr, operator ...string) {
 
 func (w *writer) interval(lo, hi api.Expr) {
 	w.part(lo, 2)
-	w.fixed("..")
+	w.Fixed("..")
 	w.part(hi, 2)
 }
 
@@ -142,20 +134,20 @@ func (w *writer) part(e api.Expr, least int) {
 }
 
 func (w *writer) enclosed(e api.Expr) {
-	w.fixed("(")
+	w.Fixed("(")
 	w.expr(e)
-	w.fixed(")")
+	w.Fixed(")")
 }
 
 // assocs puts arguments or associations.
 func (w *writer) assocs(l []api.Assoc) {
 	for i, a := range l {
 		if i > 0 {
-			w.fixed(",")
+			w.Fixed(",")
 		}
 		if len(a.Choices) > 0 {
 			w.choices(a.Choices)
-			w.fixed("=>")
+			w.Fixed("=>")
 		}
 		w.expr(a.E)
 	}
@@ -164,7 +156,7 @@ func (w *writer) assocs(l []api.Assoc) {
 func (w *writer) choices(l []api.Choice) {
 	for i, c := range l {
 		if i > 0 {
-			w.fixed("|")
+			w.Fixed("|")
 		}
 		switch c.Kind {
 		case api.ChExpr:
@@ -172,7 +164,7 @@ func (w *writer) choices(l []api.Choice) {
 		case api.ChRange:
 			w.interval(c.L[0], c.L[1])
 		case api.ChOthers:
-			w.fixed("others")
+			w.Fixed("others")
 		}
 	}
 }
