@@ -62,7 +62,7 @@ func member(kind api.ExprKind, left api.Expr) step {
 			return
 		}
 		if !Named(first) {
-			r.miss()
+			r.Miss()
 		}
 		r.expr = of(kind, left, first)
 	}
@@ -113,7 +113,7 @@ func primary(r *reader) {
 		r.expr = api.Expr{Kind: api.ExInt, N: t.N, Line: t.Line}
 	case r.Takes("null"):
 		r.expr = api.Expr{Kind: api.ExNull, Line: t.Line}
-	case t.Kind == api.TokName:
+	case r.Named():
 		r.plan(name)
 	default:
 		r.plan(parenthesis)
@@ -122,8 +122,8 @@ func primary(r *reader) {
 
 // name: a TokName { a suffix }
 func name(r *reader) {
-	t := r.word()
-	r.expr = api.Expr{Kind: api.ExName, S: t.Text, Line: t.Line}
+	line := r.Ahead(0).Line
+	r.expr = api.Expr{Kind: api.ExName, S: r.Name(), Line: line}
 	r.plan(suffixes)
 }
 
@@ -136,14 +136,14 @@ func suffixes(r *reader) {
 		r.plan(suffixes)
 	case r.Takes("("):
 		r.plan(list(argument, nil), func(r *reader) {
-			r.must(")")
+			r.Must(")")
 			r.expr = of(api.ExCall, before)
 			r.expr.A = r.assocs
 		}, suffixes)
 	case r.Takes("'"):
-		if r.Ahead(0).Kind == api.TokName {
+		if r.Named() {
 			r.expr = of(api.ExAttr, before)
-			r.expr.S = r.word().Text
+			r.expr.S = r.Name()
 			r.plan(suffixes)
 			return
 		}
@@ -157,7 +157,7 @@ func (r *reader) selected() {
 		r.expr = of(api.ExDeref, r.expr)
 		return
 	}
-	s := r.word().Text
+	s := r.Name()
 	r.expr = of(api.ExSelect, r.expr)
 	r.expr.S = s
 }
@@ -165,13 +165,13 @@ func (r *reader) selected() {
 // parenthesis: ( and the rest of an ExIf; or (, associations and )
 func parenthesis(r *reader) {
 	line := r.Ahead(0).Line
-	r.must("(")
+	r.Must("(")
 	if r.Takes("if") {
 		r.plan(conditional(line))
 		return
 	}
 	r.plan(list(association, nil), func(r *reader) {
-		r.must(")")
+		r.Must(")")
 		if single(r.assocs) {
 			r.expr = r.assocs[0].E
 		} else {
@@ -187,7 +187,7 @@ func conditional(line int) step {
 		keep := func(end string) step {
 			return func(r *reader) {
 				l = append(l, r.expr)
-				r.must(end)
+				r.Must(end)
 			}
 		}
 		r.plan(expression, keep("then"), expression, keep("else"), expression, keep(")"), func(r *reader) {
@@ -212,7 +212,7 @@ func list(item step, l []api.Assoc) step {
 func argument(r *reader) {
 	t := r.Ahead(0)
 	r.choices = nil
-	if t.Kind == api.TokName && r.Sees(1, "=>") {
+	if r.Named() && r.Sees(1, "=>") {
 		r.At += 2
 		x := api.Expr{Kind: api.ExName, S: t.Text, Line: t.Line}
 		r.choices = []api.Choice{{Kind: api.ChExpr, L: []api.Expr{x}}}
@@ -238,7 +238,7 @@ func association(r *reader) {
 // alone takes the choice that has been read for all of the choices.
 func alone(r *reader) { r.choices = []api.Choice{r.choice} }
 
-func arrow(r *reader) { r.must("=>") }
+func arrow(r *reader) { r.Must("=>") }
 
 // associated reads the rest of an association that begins with a choice: { | a choice }, =>, an expression; or nothing.
 func associated(r *reader) {

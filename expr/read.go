@@ -47,7 +47,7 @@ func FrontChoices(l []api.Token) (x []api.Choice, n int, e api.Errno) {
 
 // A reader reads tokens from left to right. Its steps do not call each other but plan each other, since forms can be nested deeper than calls can.
 type reader struct {
-	token.Cursor
+	token.Reader
 	dyadic  map[string]api.Operator
 	monadic map[string]api.Operator
 	todo    []step // the next one last
@@ -72,7 +72,8 @@ func read(l []api.Token, form step) (r *reader, n int, e api.Errno) {
 			n, e = int(at), api.ErrExpr
 		}
 	}()
-	r = &reader{Cursor: token.Cursor{L: l}, dyadic: dyadics(), monadic: monadics()}
+	r = &reader{dyadic: dyadics(), monadic: monadics()}
+	r.L, r.Miss = l, r.miss
 	r.plan(form)
 	for len(r.todo) > 0 {
 		last := len(r.todo) - 1
@@ -90,25 +91,8 @@ func (r *reader) plan(steps ...step) {
 	}
 }
 
-// must reads this symbol or reserved word.
-func (r *reader) must(s string) {
-	if !r.Takes(s) {
-		r.miss()
-	}
-}
-
 // miss ends reading at the next token.
 func (r *reader) miss() { panic(missing(r.At)) }
-
-// word reads a TokName.
-func (r *reader) word() api.Token {
-	t := r.Ahead(0)
-	if t.Kind != api.TokName {
-		r.miss()
-	}
-	r.At++
-	return t
-}
 
 // found returns the operator of a map that is next, as far as it is one token; NoOperator: there is none.
 func (r *reader) found(operators map[string]api.Operator) api.Operator {

@@ -1,26 +1,19 @@
 package shape
 
-import "ceiling/api"
-
-// mark: TokName { . TokName }
-func (r *reader) mark() api.Expr {
-	line := r.Ahead(0).Line
-	x := api.Expr{Kind: api.ExName, S: r.name(), Line: line}
-	for r.Takes(".") {
-		x = api.Expr{Kind: api.ExSelect, S: r.name(), L: []api.Expr{x}, Line: line}
-	}
-	return x
-}
+import (
+	"ceiling/api"
+	"ceiling/token"
+)
 
 // indic: mark [ range bounds ] or mark [ ( expression ) ]
 func (r *reader) indic() api.Indic {
-	s := api.Indic{Name: r.mark()}
+	s := api.Indic{Name: r.Mark()}
 	switch {
 	case r.Takes("range"):
 		s.Lo, s.Hi = r.bounds()
 	case r.Takes("("):
 		s.Value = r.expression()
-		r.must(")")
+		r.Must(")")
 	}
 	return s
 }
@@ -28,7 +21,7 @@ func (r *reader) indic() api.Indic {
 // bounds: simple .. simple
 func (r *reader) bounds() (lo, hi api.Expr) {
 	lo = r.simple()
-	r.must("..")
+	r.Must("..")
 	return lo, r.simple()
 }
 
@@ -45,20 +38,20 @@ func (r *reader) disc() api.Disc {
 			d.Lo, d.Hi = r.bounds()
 		}
 	case x.Kind != api.ExAttr:
-		r.miss()
+		r.Miss()
 	}
 	return d
 }
 
 // params: param { ; param }
-func (r *reader) params() []api.Param { return several(r.param, r.separator(";")) }
+func (r *reader) params() []api.Param { return token.Several(r.param, r.Separator(";")) }
 
 // param: names : [ in ] [ out ] mark [ := expression ]
 func (r *reader) param() api.Param {
-	p := api.Param{Line: r.Ahead(0).Line, Names: r.names()}
-	r.must(":")
+	p := api.Param{Line: r.Ahead(0).Line, Names: r.Names()}
+	r.Must(":")
 	p.Mode = r.mode()
-	p.Type = r.mark()
+	p.Type = r.Mark()
 	p.E = r.initial()
 	return p
 }
@@ -84,12 +77,12 @@ func (r *reader) initial() api.Expr {
 }
 
 // aspects: aspect { , aspect }
-func (r *reader) aspects() []api.Aspect { return several(r.aspect, r.separator(",")) }
+func (r *reader) aspects() []api.Aspect { return token.Several(r.aspect, r.Separator(",")) }
 
 // aspect: TokName => expression
 func (r *reader) aspect() api.Aspect {
-	a := api.Aspect{Name: r.name()}
-	r.must("=>")
+	a := api.Aspect{Name: r.Name()}
+	r.Must("=>")
 	a.E = r.expression()
 	return a
 }
@@ -97,19 +90,19 @@ func (r *reader) aspect() api.Aspect {
 // comps: null ; or comp { comp }
 func (r *reader) comps() []api.Comp {
 	if r.Takes("null") {
-		r.must(";")
+		r.Must(";")
 		return nil
 	}
-	return several(r.comp, r.named)
+	return token.Several(r.comp, r.Named)
 }
 
 // comp: names : indication [ := expression ] ;
 func (r *reader) comp() api.Comp {
-	c := api.Comp{Line: r.Ahead(0).Line, Names: r.names()}
-	r.must(":")
+	c := api.Comp{Line: r.Ahead(0).Line, Names: r.Names()}
+	r.Must(":")
 	c.Sub = r.indic()
 	c.E = r.initial()
-	r.must(";")
+	r.Must(";")
 	return c
 }
 
@@ -128,7 +121,7 @@ func (r *reader) definition() api.TypeDef {
 		{"access", api.TdAccess, sub},
 		{"private", api.TdPrivate, func(*api.TypeDef) {}},
 		{"limited", api.TdPrivate, r.limited},
-		{"null", api.TdRecord, func(*api.TypeDef) { r.must("record") }},
+		{"null", api.TdRecord, func(*api.TypeDef) { r.Must("record") }},
 		{"record", api.TdRecord, r.record},
 	}
 	for _, f := range forms {
@@ -138,49 +131,49 @@ func (r *reader) definition() api.TypeDef {
 			return t
 		}
 	}
-	r.miss()
+	r.Miss()
 	return api.TypeDef{}
 }
 
 // literals: names )
 func (r *reader) literals(t *api.TypeDef) {
-	t.Names = r.names()
-	r.must(")")
+	t.Names = r.Names()
+	r.Must(")")
 }
 
 // array: ( discrete range ) of indication
 func (r *reader) array(t *api.TypeDef) {
-	r.must("(")
+	r.Must("(")
 	t.Disc = r.disc()
-	r.must(")", "of")
+	r.Must(")", "of")
 	t.Sub = r.indic()
 }
 
 // limited: private
 func (r *reader) limited(t *api.TypeDef) {
-	r.must("private")
+	r.Must("private")
 	t.Limited = true
 }
 
 // record: [ components ] [ case TokName is arm { arm } end case ; ] end record
 func (r *reader) record(t *api.TypeDef) {
-	if r.Sees(0, "null") || r.named() {
+	if r.Sees(0, "null") || r.Named() {
 		t.Comps = r.comps()
 	}
 	if r.Takes("case") {
-		t.Var = r.name()
-		r.must("is")
-		t.Arms = several(r.arm, func() bool { return r.Sees(0, "when") })
-		r.must("end", "case", ";")
+		t.Var = r.Name()
+		r.Must("is")
+		t.Arms = token.Several(r.arm, func() bool { return r.Sees(0, "when") })
+		r.Must("end", "case", ";")
 	}
-	r.must("end", "record")
+	r.Must("end", "record")
 }
 
 // arm: when choices => components
 func (r *reader) arm() api.VarArm {
-	r.must("when")
+	r.Must("when")
 	a := api.VarArm{Choices: r.choices()}
-	r.must("=>")
+	r.Must("=>")
 	a.Comps = r.comps()
 	return a
 }

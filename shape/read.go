@@ -55,23 +55,18 @@ func front[T any](r *reader, form func() T, may func(T) bool) (x T, n int, e api
 	return x, r.At, api.OK
 }
 
-// several reads an item, and further ones as long as there are more.
-func several[T any](item func() T, more func() bool) []T {
-	l := []T{item()}
-	for more() {
-		l = append(l, item())
-	}
-	return l
-}
-
 // A reader reads tokens from left to right. At an error it has no more tokens, so that all forms come to their ends.
 type reader struct {
-	token.Cursor
+	token.Reader
 	e   api.Errno
 	end int // the index that belongs to e
 }
 
-func reading(l []api.Token) *reader { return &reader{Cursor: token.Cursor{L: l}} }
+func reading(l []api.Token) *reader {
+	r := &reader{}
+	r.L, r.Miss = l, r.miss
+	return r
+}
 
 // fail ends reading with an error; only the first one counts.
 func (r *reader) fail(e api.Errno, at int) {
@@ -83,36 +78,6 @@ func (r *reader) fail(e api.Errno, at int) {
 
 // miss ends reading at the next token.
 func (r *reader) miss() { r.fail(api.ErrShape, r.At) }
-
-// must reads these symbols and reserved words.
-func (r *reader) must(l ...string) {
-	for _, s := range l {
-		if !r.Takes(s) {
-			r.miss()
-		}
-	}
-}
-
-// separator returns a function that reads this symbol if it is next.
-func (r *reader) separator(s string) func() bool {
-	return func() bool { return r.Takes(s) }
-}
-
-// named reports whether a TokName is next.
-func (r *reader) named() bool { return r.Ahead(0).Kind == api.TokName }
-
-// name reads a TokName.
-func (r *reader) name() string {
-	s := r.Ahead(0).Text
-	if r.named() {
-		r.At++
-	} else {
-		r.miss()
-	}
-	return s
-}
-
-func (r *reader) names() []string { return several(r.name, r.separator(",")) }
 
 // pass goes on behind n tokens that layer 3 has read, or ends reading with its error.
 func (r *reader) pass(n int, e api.Errno) {

@@ -37,7 +37,7 @@ func CompLines(l []api.Comp, depth int) ([]api.Line, api.Errno) {
 	}
 	var w writer
 	w.comps(l, depth)
-	return w.lines, api.OK
+	return w.Lines, api.OK
 }
 
 // TypeLines returns the lines of a type definition; the first one is to stand behind "is".
@@ -47,14 +47,11 @@ func TypeLines(t api.TypeDef, depth int) ([]api.Line, api.Errno) {
 	}
 	var w writer
 	w.definition(t, depth)
-	return w.lines, api.OK
+	return w.Lines, api.OK
 }
 
 // A writer has the lines of what is valid, and the tokens of the line that is not ended yet.
-type writer struct {
-	token.List
-	lines []api.Line
-}
+type writer struct{ token.Page }
 
 // tokens returns the tokens that a form puts into w for what is valid.
 func tokens[T any](w *writer, form func(T), x T, may func(T) bool) ([]api.Token, api.Errno) {
@@ -63,22 +60,6 @@ func tokens[T any](w *writer, form func(T), x T, may func(T) bool) ([]api.Token,
 	}
 	form(x)
 	return w.L, api.OK
-}
-
-// listed puts items into w, with a separator between them.
-func listed[T any](w *writer, l []T, separator string, item func(T)) {
-	for i, x := range l {
-		if i > 0 {
-			w.Fixed(separator)
-		}
-		item(x)
-	}
-}
-
-// end ends a line.
-func (w *writer) end(depth int) {
-	w.lines = append(w.lines, api.Line{Depth: depth, L: w.L})
-	w.L = nil
 }
 
 func (w *writer) expr(e api.Expr) {
@@ -104,8 +85,6 @@ func (w *writer) initial(e api.Expr) {
 	}
 }
 
-func (w *writer) names(l []string) { listed(w, l, ",", w.Name) }
-
 func (w *writer) indic(s api.Indic) {
 	w.expr(s.Name)
 	switch {
@@ -130,10 +109,10 @@ func (w *writer) disc(d api.Disc) {
 	}
 }
 
-func (w *writer) params(l []api.Param) { listed(w, l, ";", w.param) }
+func (w *writer) params(l []api.Param) { token.Listed(&w.List, l, ";", w.param) }
 
 func (w *writer) param(p api.Param) {
-	w.names(p.Names)
+	w.Names(p.Names)
 	w.Fixed(":")
 	switch p.Mode {
 	case api.ModeOut:
@@ -145,7 +124,7 @@ func (w *writer) param(p api.Param) {
 	w.initial(p.E)
 }
 
-func (w *writer) aspects(l []api.Aspect) { listed(w, l, ",", w.aspect) }
+func (w *writer) aspects(l []api.Aspect) { token.Listed(&w.List, l, ",", w.aspect) }
 
 func (w *writer) aspect(a api.Aspect) {
 	w.Name(a.Name)
@@ -156,15 +135,15 @@ func (w *writer) aspect(a api.Aspect) {
 func (w *writer) comps(l []api.Comp, depth int) {
 	if len(l) == 0 {
 		w.Fixed("null", ";")
-		w.end(depth)
+		w.End(depth)
 	}
 	for _, c := range l {
-		w.names(c.Names)
+		w.Names(c.Names)
 		w.Fixed(":")
 		w.indic(c.Sub)
 		w.initial(c.E)
 		w.Fixed(";")
-		w.end(depth)
+		w.End(depth)
 	}
 }
 
@@ -172,7 +151,7 @@ func (w *writer) definition(t api.TypeDef, depth int) {
 	switch t.Kind {
 	case api.TdEnum:
 		w.Fixed("(")
-		w.names(t.Names)
+		w.Names(t.Names)
 		w.Fixed(")")
 	case api.TdRange:
 		w.Fixed("range")
@@ -196,7 +175,7 @@ func (w *writer) definition(t api.TypeDef, depth int) {
 		}
 		w.Fixed("private")
 	}
-	w.end(depth)
+	w.End(depth)
 }
 
 // record puts a record without the end of its last line.
@@ -206,7 +185,7 @@ func (w *writer) record(t api.TypeDef, depth int) {
 		return
 	}
 	w.Fixed("record")
-	w.end(depth)
+	w.End(depth)
 	if len(t.Comps) > 0 {
 		w.comps(t.Comps, depth+1)
 	}
@@ -220,14 +199,14 @@ func (w *writer) variants(t api.TypeDef, depth int) {
 	w.Fixed("case")
 	w.Name(t.Var)
 	w.Fixed("is")
-	w.end(depth)
+	w.End(depth)
 	for _, a := range t.Arms {
 		w.Fixed("when")
 		w.choices(a.Choices)
 		w.Fixed("=>")
-		w.end(depth + 1)
+		w.End(depth + 1)
 		w.comps(a.Comps, depth+2)
 	}
 	w.Fixed("end", "case", ";")
-	w.end(depth)
+	w.End(depth)
 }

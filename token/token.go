@@ -43,18 +43,5 @@ func (c *Cursor) Takes(s string) bool {
 	return true
 }
 
-// A List has the tokens that have been put into it.
-type List struct{ L []api.Token }
-
-// Put puts tokens.
-func (w *List) Put(l ...api.Token) { w.L = append(w.L, l...) }
-
-// Fixed puts symbols and reserved words.
-func (w *List) Fixed(l ...string) {
-	for _, s := range l {
-		w.Put(Fixed(s))
-	}
-}
-
-// Name puts a name.
-func (w *List) Name(s string) { w.Put(api.Token{Kind: api.TokName, Text: s}) }
+// Named reports whether a TokName is next.
+func (c *Cursor) Named() bool { return c.Ahead(0).Kind == api.TokName }
