@@ -138,6 +138,22 @@ func TestFields(t *testing.T) {
 	}
 }
 
+// P5.1: kinds and sorts, also those that do not exist, without any fields, and with a name alone.
+func TestKinds(t *testing.T) {
+	yes, no := 0, 0
+	for k := range 256 {
+		agree(t, syntax.MayStmt, api.Stmt{Kind: api.StmtKind(k)}, &yes, &no)
+		agree(t, syntax.MayStmt, api.Stmt{Kind: api.StmtKind(k), Label: "A"}, &yes, &no)
+		for of := range 256 {
+			agree(t, syntax.MayDecl, api.Decl{Kind: api.DeclKind(k), Of: api.OfKind(of)}, &yes, &no)
+			agree(t, syntax.MayDecl, api.Decl{Kind: api.DeclKind(k), Of: api.OfKind(of), Names: []string{"A"}}, &yes, &no)
+		}
+	}
+	if yes != 5+9+4+3 { // statements, declarations of other kinds, stubs, formal types
+		t.Error(yes)
+	}
+}
+
 // P5.1: arms of statements: each field of each arm, and their number and order.
 func TestArms(t *testing.T) {
 	all := append(values(), reflect.ValueOf([]api.Choice(nil)), reflect.ValueOf(choices[0]), reflect.ValueOf([]api.Choice{{}}))
